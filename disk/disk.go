@@ -6,6 +6,7 @@ import (
 	"slices"
 
 	"trolley/api"
+	"trolley/names"
 )
 
 // Disk is a stand-in for a disk: files of bytes that were written, some of them synced.
@@ -25,12 +26,12 @@ func New(room int) (*Disk, api.Errno) {
 func (d *Disk) made() bool { return d != nil && d.files != nil }
 
 // check finds the errors that come ahead of all others.
-func (d *Disk) check(names ...string) api.Errno {
+func (d *Disk) check(files ...string) api.Errno {
 	if !d.made() {
 		return api.ErrNil
 	}
-	for _, n := range names {
-		if !isName(n) {
+	for _, n := range files {
+		if !names.Can(n) {
 			return api.ErrName
 		}
 	}

@@ -8,26 +8,6 @@ type file struct {
 	synced int
 }
 
-func isName(name string) bool {
-	if len(name) < 1 || len(name) > api.MaxName {
-		return false
-	}
-	for _, c := range []byte(name) {
-		if !isNameByte(c) {
-			return false
-		}
-	}
-	return true
-}
-
-func isNameByte(c byte) bool {
-	switch {
-	case 'a' <= c && c <= 'z', 'A' <= c && c <= 'Z', '0' <= c && c <= '9':
-		return true
-	}
-	return c == '.' || c == '-' || c == '_'
-}
-
 func (f *file) copied() *file {
 	return &file{bytes: append([]byte{}, f.bytes...), synced: f.synced}
 }
