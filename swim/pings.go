@@ -4,6 +4,7 @@ import (
 	"slices"
 
 	"trolley/api"
+	"trolley/peers"
 )
 
 // Milliseconds.
@@ -87,11 +88,11 @@ func (t *Table) answer(m api.Msg) []api.Msg {
 	switch {
 	case m.Owner == nobody || m.Owner == t.self:
 		pong := api.Msg{Kind: api.MsgPong, From: t.self, To: m.From, Req: m.Req, Owner: t.self, N: nobody}
-		if isNode(m.N) {
+		if peers.IsNode(m.N) {
 			pong.N = m.N
 		}
 		return []api.Msg{pong}
-	case isNode(m.Owner):
+	case peers.IsNode(m.Owner):
 		return []api.Msg{{Kind: api.MsgPing, From: t.self, To: m.Owner, Req: m.Req, Owner: nobody, N: m.From}}
 	}
 	return nil
@@ -102,7 +103,7 @@ func (t *Table) take(m api.Msg) []api.Msg {
 	switch {
 	case m.N == nobody || m.N == t.self:
 		t.open = slices.DeleteFunc(t.open, func(p ping) bool { return p.target == m.Owner && p.req == m.Req })
-	case isNode(m.N):
+	case peers.IsNode(m.N):
 		return []api.Msg{{Kind: api.MsgPong, From: t.self, To: m.N, Req: m.Req, Owner: m.Owner, N: nobody}}
 	}
 	return nil

@@ -1,17 +1,14 @@
 package swim
 
-import "trolley/api"
+import (
+	"trolley/api"
+	"trolley/peers"
+)
 
 // state is what is known of a node, and since when. That of a node that is not known is the zero one: a rumour that may be has a status.
 type state struct {
 	api.Peer
 	since int
-}
-
-func isNode(node int) bool { return 0 <= node && node < api.MaxNodes }
-
-func mayBe(p api.Peer) bool {
-	return isNode(p.Node) && 0 <= p.Inc && p.Inc <= api.MaxInc && api.PeerAlive <= p.Status && p.Status <= api.PeerDead
 }
 
 func (t *Table) knows(node int) bool { return t.nodes[node] != state{} }
@@ -36,7 +33,7 @@ func (t *Table) turn(node, status int) []api.Peer {
 // hear takes a rumour: what is told of it. The table's own node is alive, so that a rumour that it is not is Greater with the same Inc too; it is contradicted.
 func (t *Table) hear(p api.Peer) []api.Peer {
 	switch {
-	case !mayBe(p) || t.knows(p.Node) && !Greater(p, t.nodes[p.Node].Peer):
+	case !peers.Can(p) || t.knows(p.Node) && !Greater(p, t.nodes[p.Node].Peer):
 		return nil
 	case p.Node != t.self:
 		return t.tell(p)
