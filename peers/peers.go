@@ -1,4 +1,4 @@
-// Package peers tells which numbers are nodes, and which rumours of nodes may be. swim and gossip keep to one rule, so that it stands in one place, below them.
+// Package peers tells which numbers are nodes, and which rumours of nodes may be. swim, gossip and hints keep to one rule, so that it stands in one place, below them.
 package peers
 
 import "trolley/api"
